@@ -18,7 +18,7 @@ func NewLine(tokens []api.Token) *Line {
 
 // Take the next token, which must be of one of the kinds.
 func (l *Line) Take(kinds ...int) api.Token {
-	if len(l.rest) == 0 || !slices.Contains(kinds, l.rest[0].Kind) {
+	if l.Ended() || !slices.Contains(kinds, l.rest[0].Kind) {
 		panic(Fault(api.ErrForm))
 	}
 	t := l.rest[0]
@@ -35,16 +35,28 @@ func (l *Line) Sign(sign string) {
 
 // Skip a sign, if it comes next: whether it did.
 func (l *Line) Skip(sign string) bool {
-	if len(l.rest) == 0 || l.rest[0].Kind != api.TokenSign || l.rest[0].Text != sign {
+	if l.Ended() || l.rest[0].Kind != api.TokenSign || l.rest[0].Text != sign {
 		return false
 	}
 	l.rest = l.rest[1:]
 	return true
 }
 
+// Word that must come next: a name, and that one.
+func (l *Line) Word(word string) {
+	if l.Take(api.TokenName).Text != word {
+		panic(Fault(api.ErrForm))
+	}
+}
+
+// Ended: whether no token is left.
+func (l *Line) Ended() bool {
+	return len(l.rest) == 0
+}
+
 // End of the line, which must be reached.
 func (l *Line) End() {
-	if len(l.rest) > 0 {
+	if !l.Ended() {
 		panic(Fault(api.ErrForm))
 	}
 }

@@ -56,6 +56,19 @@ func TestLine(t *testing.T) {
 			}
 			l.End()
 		}, api.OK},
+		{[]api.Token{name}, func(l *Line) { l.Word("a"); l.End() }, api.OK},
+		{[]api.Token{name}, func(l *Line) { l.Word("b") }, api.ErrForm},
+		{[]api.Token{brace}, func(l *Line) { l.Word("{") }, api.ErrForm},
+		{nil, func(l *Line) { l.Word("") }, api.ErrForm},
+		{[]api.Token{name}, func(l *Line) {
+			if l.Ended() {
+				t.Error("ended ahead of a token")
+			}
+			l.Take(api.TokenName)
+			if !l.Ended() {
+				t.Error("not ended behind the last token")
+			}
+		}, api.OK},
 		{[]api.Token{colon}, func(l *Line) { l.Sign(":"); l.End() }, api.OK},
 		{[]api.Token{colon}, func(l *Line) { l.Sign("{") }, api.ErrForm},
 		{[]api.Token{brace}, func(l *Line) { l.Sign("{") }, api.ErrForm},

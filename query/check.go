@@ -5,6 +5,7 @@ import (
 
 	"halyard/api"
 	"halyard/lex"
+	"halyard/tokens"
 )
 
 // fits: whether selects at a depth keep to the limits, of which left more may come. It stops at the first one that does not, so that it ends for a list that holds itself too.
@@ -45,11 +46,11 @@ func called(s api.Select) string {
 
 // wrongSelect: what is wrong with a select by itself.
 func wrongSelect(s api.Select) api.Errno {
-	if no := lex.Check([]api.Token{nameToken(s.Name)}); no != api.OK {
+	if no := tokens.WrongName(s.Name); no != api.OK {
 		return no
 	}
 	if s.Alias != "" {
-		if no := lex.Check([]api.Token{nameToken(s.Alias)}); no != api.OK {
+		if no := tokens.WrongName(s.Alias); no != api.OK {
 			return no
 		}
 	}
@@ -61,7 +62,7 @@ func wrongArgs(l []api.Arg) api.Errno {
 		return api.ErrMany
 	}
 	for i, a := range l {
-		if no := lex.Check([]api.Token{nameToken(a.Name)}); no != api.OK {
+		if no := tokens.WrongName(a.Name); no != api.OK {
 			return no
 		}
 		same := func(other api.Arg) bool { return other.Name == a.Name }

@@ -5,16 +5,17 @@ import (
 	"halyard/api"
 	"halyard/lex"
 	"halyard/parse"
+	"halyard/tokens"
 )
 
 // Read a query.
 func Read(s string) ([]api.Select, api.Errno) {
-	tokens, no := lex.Read(s)
+	read, no := lex.Read(s)
 	if no != api.OK {
 		return nil, no
 	}
 	var l []api.Select
-	if no := parse.Caught(func() { l = whole(parse.NewLine(tokens)) }); no != api.OK {
+	if no := parse.Caught(func() { l = whole(parse.NewLine(read)) }); no != api.OK {
 		return nil, no
 	}
 	if no := Check(l); no != api.OK {
@@ -40,5 +41,7 @@ func Print(l []api.Select) (string, api.Errno) {
 	if no := Check(l); no != api.OK {
 		return "", no
 	}
-	return written(putList(nil, l))
+	var row tokens.Row
+	putList(&row, l)
+	return row.Text()
 }
