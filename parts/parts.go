@@ -1,4 +1,4 @@
-// Package parts has what the layers share of schemas and states: where something of them is, and copies of them.
+// Package parts has what the layers share of queries, schemas and states: what something of them is called, where it is, and copies.
 package parts
 
 import (
@@ -8,9 +8,25 @@ import (
 	"halyard/api"
 )
 
+// IdName is what the id of every thing is called, so that no field may be.
+const IdName = "id"
+
+// Called: what a select is called in the answer.
+func Called(s api.Select) string {
+	if s.Alias != "" {
+		return s.Alias
+	}
+	return s.Name
+}
+
 // TypeNamed: the number of the first type of a name, or -1.
 func TypeNamed(types []api.Type, name string) int {
 	return slices.IndexFunc(types, func(t api.Type) bool { return t.Name == name })
+}
+
+// FieldNamed: the number of the first field of a name, or -1.
+func FieldNamed(fields []api.Field, name string) int {
+	return slices.IndexFunc(fields, func(f api.Field) bool { return f.Name == name })
 }
 
 // Order of things: below 0, if a stands ahead of b; 0, if they stand in one place; else above.

@@ -19,6 +19,27 @@ func TestTypeNamed(t *testing.T) {
 	}
 }
 
+func TestFieldNamed(t *testing.T) {
+	fields := []api.Field{{Name: "n"}, {Name: "m"}, {Name: "m"}}
+	for _, c := range []struct {
+		name string
+		want int
+	}{{"n", 0}, {"m", 1}, {"N", -1}, {"", -1}} {
+		if i := FieldNamed(fields, c.name); i != c.want {
+			t.Errorf("FieldNamed(%q): %d, not %d", c.name, i, c.want)
+		}
+	}
+}
+
+func TestCalled(t *testing.T) {
+	if name := Called(api.Select{Name: "a"}); name != "a" {
+		t.Errorf("without an alias: %q", name)
+	}
+	if name := Called(api.Select{Alias: "x", Name: "a"}); name != "x" {
+		t.Errorf("with an alias: %q", name)
+	}
+}
+
 func TestThingAt(t *testing.T) {
 	things := []api.Thing{{Type: 0, Id: 2}, {Type: 0, Id: 10}, {Type: 2, Id: 1}}
 	for _, c := range []struct {

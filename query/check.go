@@ -5,6 +5,7 @@ import (
 
 	"halyard/api"
 	"halyard/lex"
+	"halyard/parts"
 	"halyard/tokens"
 )
 
@@ -25,7 +26,7 @@ func wrongList(l []api.Select) api.Errno {
 		if no := wrongSelect(s); no != api.OK {
 			return no
 		}
-		same := func(other api.Select) bool { return called(other) == called(s) }
+		same := func(other api.Select) bool { return parts.Called(other) == parts.Called(s) }
 		if slices.ContainsFunc(l[:i], same) {
 			return api.ErrTwice
 		}
@@ -34,14 +35,6 @@ func wrongList(l []api.Select) api.Errno {
 		}
 	}
 	return api.OK
-}
-
-// called: what a select is called in the answer.
-func called(s api.Select) string {
-	if s.Alias != "" {
-		return s.Alias
-	}
-	return s.Name
 }
 
 // wrongSelect: what is wrong with a select by itself.

@@ -1,15 +1,10 @@
 package schema
 
 import (
-	"slices"
-
 	"halyard/api"
 	"halyard/parts"
 	"halyard/tokens"
 )
-
-// wordId is no field's name: every thing has its id.
-const wordId = "id"
 
 // wrongType: what is wrong with type i of a schema.
 func wrongType(l []api.Type, i int) api.Errno {
@@ -41,11 +36,10 @@ func wrongField(l []api.Type, fields []api.Field, j int) api.Errno {
 	if no := tokens.WrongName(f.Name); no != api.OK {
 		return no
 	}
-	same := func(other api.Field) bool { return other.Name == f.Name }
 	switch {
-	case f.Name == wordId:
+	case f.Name == parts.IdName:
 		return api.ErrState
-	case slices.ContainsFunc(fields[:j], same):
+	case parts.FieldNamed(fields[:j], f.Name) >= 0:
 		return api.ErrTwice
 	}
 	return wrongKind(l, f)
