@@ -4,6 +4,7 @@ import (
 	"strings"
 
 	"halyard/api"
+	"halyard/parse"
 )
 
 const signs = "{}():[]"
@@ -78,11 +79,7 @@ func begins(c byte) bool {
 
 // goesOn: whether a name may go on with c.
 func goesOn(c byte) bool {
-	return begins(c) || isDigit(c)
-}
-
-func isDigit(c byte) bool {
-	return '0' <= c && c <= '9'
+	return begins(c) || parse.IsDigit(c)
 }
 
 func isSign(c byte) bool {

@@ -14,7 +14,7 @@ func Read(s string) ([]api.Token, api.Errno) {
 	if len(s) > api.MaxText {
 		return nil, api.ErrMany
 	}
-	r := reader{text: s}
+	r := reader{Text: parse.NewText(s)}
 	if no := parse.Caught(r.all); no != api.OK {
 		return nil, no
 	}

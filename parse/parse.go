@@ -1,4 +1,4 @@
-// Package parse: what the readers of the layers share: giving up from deep inside, and going through tokens.
+// Package parse: what the readers of the layers share: giving up from deep inside, and going through bytes and tokens.
 package parse
 
 import (
