@@ -2,6 +2,7 @@ package exec
 
 import (
 	"halyard/api"
+	"halyard/parts"
 	"halyard/tokens"
 )
 
@@ -46,7 +47,7 @@ func wrongAlone(o api.Out) api.Errno {
 		return api.ErrKind
 	case !onlyNamed(o):
 		return api.ErrForm
-	case o.N < -api.MaxInt || o.N > api.MaxInt:
+	case !parts.IsInt(o.N):
 		return api.ErrRange
 	case len(o.Text) > api.MaxWords:
 		return api.ErrMany

@@ -5,6 +5,7 @@ import (
 
 	"halyard/api"
 	"halyard/parse"
+	"halyard/parts"
 )
 
 const signs = "{}():[]"
@@ -40,7 +41,7 @@ func wrongNumber(t api.Token) api.Errno {
 	switch {
 	case t.Text != "":
 		return api.ErrForm
-	case t.N < -api.MaxInt || t.N > api.MaxInt:
+	case !parts.IsInt(t.N):
 		return api.ErrRange
 	}
 	return api.OK

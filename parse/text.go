@@ -46,6 +46,16 @@ func (t *Text) Next() byte {
 	return c
 }
 
+// Take the next n bytes, which must be there, and are passed.
+func (t *Text) Take(n int) string {
+	if n > len(t.rest) {
+		panic(Fault(api.ErrForm))
+	}
+	taken := t.rest[:n]
+	t.rest = t.rest[n:]
+	return taken
+}
+
 // Skip a piece, if it comes next: whether it did.
 func (t *Text) Skip(piece string) bool {
 	rest, came := strings.CutPrefix(t.rest, piece)

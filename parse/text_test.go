@@ -40,6 +40,15 @@ func TestText(t *testing.T) {
 			}
 			s.End()
 		}, api.OK},
+		{"a\"\x00b", func(s *Text) {
+			if s.Take(0) != "" || s.Take(3) != "a\"\x00" || s.Take(1) != "b" || s.Take(0) != "" {
+				t.Error("other bytes were taken")
+			}
+			s.End()
+		}, api.OK},
+		{"", func(s *Text) { s.Take(1) }, api.ErrForm},
+		{"ab", func(s *Text) { s.Take(3) }, api.ErrForm},
+		{"ab", func(s *Text) { s.Take(1); s.Take(2) }, api.ErrForm},
 	} {
 		text := NewText(c.text)
 		if no := Caught(func() { c.do(text) }); no != c.want {

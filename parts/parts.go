@@ -1,4 +1,4 @@
-// Package parts has what the layers share of queries, schemas and states: what something of them is called, where it is, and copies.
+// Package parts has what the layers share of queries, schemas, states and events: what something of them is called, where it is, what it may be, and copies.
 package parts
 
 import (
@@ -17,6 +17,16 @@ func Called(s api.Select) string {
 		return s.Alias
 	}
 	return s.Name
+}
+
+// First element of a list that is wanted, and whether there is one.
+func First[E any](l []E, wanted func(e E) bool) (E, bool) {
+	i := slices.IndexFunc(l, wanted)
+	if i < 0 {
+		var none E
+		return none, false
+	}
+	return l[i], true
 }
 
 // TypeNamed: the number of the first type of a name, or -1.

@@ -21,9 +21,9 @@ func eachCell(types []api.Type, things []api.Thing, asked func(of api.Field, c a
 func wrongThing(s api.State, i int) api.Errno {
 	t := s.Things[i]
 	switch {
-	case !isIndex(t.Type, len(s.Types)):
+	case !parts.IsIndex(t.Type, len(s.Types)):
 		return api.ErrNone
-	case !isId(t.Id):
+	case !parts.IsId(t.Id):
 		return api.ErrRange
 	case len(t.Cells) != len(s.Types[t.Type].Fields):
 		return api.ErrForm
@@ -42,7 +42,7 @@ func wrongCell(of api.Field, c api.Cell) api.Errno {
 	switch {
 	case !onlyNamed(of.Kind, c):
 		return api.ErrForm
-	case c.N < -api.MaxInt || c.N > api.MaxInt:
+	case !parts.IsInt(c.N):
 		return api.ErrRange
 	case len(c.Text) > api.MaxWords || len(c.Ids) > mostIds(of.Kind):
 		return api.ErrMany
@@ -95,37 +95,14 @@ func wrongIds(s api.State) api.Errno {
 
 // wrongEvent: what is wrong with an event, whatever things there are.
 func wrongEvent(types []api.Type, e api.Event) api.Errno {
+	if no := parts.WrongShape(e); no != api.OK {
+		return no
+	}
 	switch {
-	case e.Kind < api.EventMake || e.Kind > api.EventCut:
-		return api.ErrKind
-	case e != named(e):
-		return api.ErrForm
-	case !isIndex(e.Type, len(types)):
+	case !parts.IsIndex(e.Type, len(types)):
 		return api.ErrNone
-	case !isId(e.Id):
+	case !parts.IsId(e.Id):
 		return api.ErrRange
 	}
 	return api.OK
-}
-
-// named: an event with nothing but what its kind names.
-func named(e api.Event) api.Event {
-	switch e.Kind {
-	case api.EventNumber, api.EventLink, api.EventCut:
-		e.Text = ""
-	case api.EventText:
-		e.N = 0
-	default:
-		e.Field, e.N, e.Text = 0, 0, ""
-	}
-	return e
-}
-
-// isIndex: whether something is numbered i, of n numbered from 0 on.
-func isIndex(i, n int) bool {
-	return 0 <= i && i < n
-}
-
-func isId(id int) bool {
-	return 1 <= id && id <= api.MaxId
 }

@@ -56,7 +56,7 @@ func (d *doer) drop(at int) api.Errno {
 // change a cell of the thing at a place.
 func (d *doer) change(at int) api.Errno {
 	fields := d.Types[d.event.Type].Fields
-	if !isIndex(d.event.Field, len(fields)) {
+	if !parts.IsIndex(d.event.Field, len(fields)) {
 		return api.ErrNone
 	}
 	of := fields[d.event.Field]
