@@ -57,13 +57,13 @@ func CloneState(s api.State) api.State {
 // CloneTypes: the same types in new memory.
 func CloneTypes(types []api.Type) []api.Type {
 	return cloned(types, func(t api.Type) api.Type {
-		return api.Type{Name: t.Name, Fields: cloneList(t.Fields)}
+		return api.Type{Name: t.Name, Fields: CloneList(t.Fields)}
 	})
 }
 
 func cloneThing(t api.Thing) api.Thing {
 	t.Cells = cloned(t.Cells, func(c api.Cell) api.Cell {
-		c.Ids = cloneList(c.Ids)
+		c.Ids = CloneList(c.Ids)
 		return c
 	})
 	return t
@@ -78,7 +78,7 @@ func cloned[E any](l []E, clone func(E) E) []E {
 	return out
 }
 
-// cloneList in new memory. (That of slices keeps hold of the old memory, if the list is empty.)
-func cloneList[E any](l []E) []E {
+// CloneList: the same list in new memory. (That of slices keeps hold of the old memory, if the list is empty.)
+func CloneList[E any](l []E) []E {
 	return append([]E(nil), l...)
 }
